@@ -163,6 +163,25 @@ func TestFillAtLimits(t *testing.T) {
 
 var marks = regexp.MustCompile(`(?s)\$.?`)
 
+// fillOf returns what the document says of Fill for a text that is not too long
+// and at most ten names, and the arguments that the text names.
+func fillOf(b string, args []string) (string, map[string]bool, bool) {
+	ok, mentioned := true, map[string]bool{}
+	want := marks.ReplaceAllStringFunc(b, func(m string) string {
+		n := strings.Index("0123456789", m[1:])
+		if m == "$$" {
+			return "$"
+		}
+		if m == "$" || n < 0 || n >= len(args) {
+			ok = false
+			return ""
+		}
+		mentioned[args[n]] = true
+		return args[n]
+	})
+	return want, mentioned, ok
+}
+
 func TestFillOfRandomTexts(t *testing.T) {
 	random := rand.New(rand.NewSource(34))
 	filled, refused := 0, 0
@@ -175,19 +194,7 @@ func TestFillOfRandomTexts(t *testing.T) {
 				b.WriteString([]string{"$", "$x", "$7", "$9"}[random.Intn(4)])
 			}
 		}
-		ok, mentioned := true, map[string]bool{}
-		want := marks.ReplaceAllStringFunc(b.String(), func(m string) string {
-			n := strings.Index("0123456789", m[1:])
-			if m == "$$" {
-				return "$"
-			}
-			if m == "$" || n < 0 || n >= len(args) {
-				ok = false
-				return ""
-			}
-			mentioned[args[n]] = true
-			return args[n]
-		})
+		want, mentioned, ok := fillOf(b.String(), args)
 		if !ok {
 			refused++
 			checkNoFill(t, b.String(), args)

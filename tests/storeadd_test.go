@@ -15,6 +15,15 @@ import (
 
 // added returns what the document says of adding o, a valid text or tree.
 func added(s impl.Store, o impl.Obj) (impl.Store, string, int) {
+	var all []string
+	for _, other := range s.Objs {
+		all = append(all, nameOf(other))
+	}
+	return addedIn(s, o, all)
+}
+
+// addedIn is added, but o refers only to names of view, which are ascending.
+func addedIn(s impl.Store, o impl.Obj, view []string) (impl.Store, string, int) {
 	if _, ok := objOf(s, nameOf(o)); ok {
 		return s, nameOf(o), impl.StWell
 	}
@@ -22,9 +31,9 @@ func added(s impl.Store, o impl.Obj) (impl.Store, string, int) {
 		return s, "", impl.StFull
 	}
 	var refs []string
-	for _, other := range s.Objs {
-		if strings.Contains(dataOf(o.Tree), nameOf(other)) {
-			refs = append(refs, nameOf(other))
+	for _, name := range view {
+		if strings.Contains(dataOf(o.Tree), name) {
+			refs = append(refs, name)
 		}
 	}
 	o.Refs = texts(refs...)
