@@ -2,6 +2,7 @@ package tests
 
 import (
 	"reflect"
+	"strings"
 	"testing"
 )
 
@@ -36,6 +37,38 @@ func checkCall(t *testing.T, what string, f any, args ...any) []any {
 		out = append(out, r.Interface())
 	}
 	return out
+}
+
+// checkOk fails if f, the function of that name, does not tell which values are valid, or if the reference does not.
+func checkOk[V any](t *testing.T, name string, f, reference func(V) bool, good, broken map[string]V) {
+	t.Helper()
+	for what, v := range good {
+		if ok := checkCall(t, what+": "+name, f, v)[0].(bool); !ok || !reference(v) {
+			t.Errorf("%s: %s is false", what, name)
+		}
+	}
+	for what, v := range broken {
+		if strings.Contains(what, "cyclic") {
+			// Neither the copies of the check nor the reference end.
+			if f(v) {
+				t.Errorf("%s: %s is true", what, name)
+			}
+			continue
+		}
+		if ok := checkCall(t, what+": "+name, f, v)[0].(bool); ok || reference(v) {
+			t.Errorf("%s: %s is true", what, name)
+		}
+	}
+}
+
+// checkConstants fails if the constants are not these numbers.
+func checkConstants(t *testing.T, constants []int, want ...int) {
+	t.Helper()
+	for i, n := range want {
+		if constants[i] != n {
+			t.Errorf("constant %d is %d", i, constants[i])
+		}
+	}
 }
 
 // spared returns a deep copy of v that has junk in the spare capacity of every slice.

@@ -5,7 +5,6 @@ import (
 	"reflect"
 	"slices"
 	"strconv"
-	"strings"
 	"testing"
 
 	"loop.example/g00538/impl"
@@ -16,31 +15,11 @@ import (
 
 func TestJobConstants(t *testing.T) {
 	constants := []int{impl.JbRun, impl.JbWait, impl.JbDone, impl.JbFail, impl.ErWell, impl.ErMalformed, impl.ErArg, impl.ErFail, impl.ErDep, impl.ErFull, impl.ErNone, impl.ErStuck, impl.ErForm}
-	for i, want := range []int{0, 1, 2, 3, 0, 1, 2, 3, 4, 5, 6, 7, 8} {
-		if constants[i] != want {
-			t.Errorf("constant %d is %d", i, constants[i])
-		}
-	}
+	checkConstants(t, constants, 0, 1, 2, 3, 0, 1, 2, 3, 4, 5, 6, 7, 8)
 }
 
 func TestJobOk(t *testing.T) {
-	for what, j := range validJobs() {
-		if ok := checkCall(t, what+": JobOk", impl.JobOk, j)[0].(bool); !ok || !validJob(j) {
-			t.Errorf("%s: JobOk is false", what)
-		}
-	}
-	for what, j := range brokenJobs() {
-		if strings.Contains(what, "cyclic") {
-			// Neither the copies of the check nor the reference end.
-			if impl.JobOk(j) {
-				t.Errorf("%s: JobOk is true", what)
-			}
-			continue
-		}
-		if ok := checkCall(t, what+": JobOk", impl.JobOk, j)[0].(bool); ok || validJob(j) {
-			t.Errorf("%s: JobOk is true", what)
-		}
-	}
+	checkOk(t, "JobOk", impl.JobOk, validJob, validJobs(), brokenJobs())
 }
 
 // Each of these is valid by one number alone.

@@ -15,11 +15,7 @@ import (
 
 func TestStoreConstants(t *testing.T) {
 	constants := []int{impl.MaxObjs, impl.ObText, impl.ObTree, impl.ObOut, impl.StWell, impl.StForm, impl.StFull, impl.StNone}
-	for i, want := range []int{24, 0, 1, 2, 0, 1, 2, 3} {
-		if constants[i] != want {
-			t.Errorf("constant %d is %d", i, constants[i])
-		}
-	}
+	checkConstants(t, constants, 24, 0, 1, 2, 0, 1, 2, 3)
 }
 
 func TestStoreOk(t *testing.T) {
