@@ -2,6 +2,7 @@ package tests
 
 import (
 	"bytes"
+	"iter"
 	"math/rand"
 	"slices"
 	"strconv"
@@ -132,12 +133,14 @@ func linked(refs ...[]int) []impl.Obj {
 	return l
 }
 
-// The dependency order comes from repeated traversals: what is taken counts at once, and none is begun before its end.
-func TestChangesInDependencyOrder(t *testing.T) {
-	for what, x := range map[string]struct {
-		refs  [][]int
-		order []int
-	}{
+// order tells which objects refer to which, by their places in the order of their names, and their dependency order.
+type order struct {
+	refs  [][]int
+	taken []int
+}
+
+func orders() map[string]order {
+	return map[string]order{
 		"no references":                      {[][]int{{}, {}, {}, {}}, []int{0, 1, 2, 3}},
 		"each to the one before":             {[][]int{{}, {0}, {1}, {2}}, []int{0, 1, 2, 3}},
 		"each to the one behind":             {[][]int{{1}, {2}, {3}, {}}, []int{3, 2, 1, 0}},
@@ -152,10 +155,15 @@ func TestChangesInDependencyOrder(t *testing.T) {
 		"a diamond, the other way":           {[][]int{{2}, {}, {1}, {0, 2}}, []int{1, 2, 0, 3}},
 		"one of two is taken":                {[][]int{{1, 4}, {}, {0}, {1}, {}}, []int{1, 3, 4, 0, 2}},
 		"three traversals":                   {[][]int{{2}, {}, {4}, {2}, {}, {3}}, []int{1, 4, 2, 3, 5, 0}},
-	} {
+	}
+}
+
+// The dependency order comes from repeated traversals: what is taken counts at once, and none is begun before its end.
+func TestChangesInDependencyOrder(t *testing.T) {
+	for what, x := range orders() {
 		l := linked(x.refs...)
 		var more, gone []impl.Reg
-		for _, i := range x.order {
+		for _, i := range x.taken {
 			more, gone = append(more, objReg(l[i])), append(gone, nameReg(impl.RgGone, nameOf(l[i])))
 		}
 		slices.Reverse(gone)
@@ -168,26 +176,34 @@ func TestChangesInDependencyOrder(t *testing.T) {
 	}
 }
 
+// foursomes produces four objects in every way in which they can refer to each other without a circle.
+func foursomes() iter.Seq2[int, []impl.Obj] {
+	return func(yield func(int, []impl.Obj) bool) {
+		for code := range 1 << 12 {
+			refs := make([][]int, 4)
+			bit := 0
+			for i := range refs {
+				for k := range refs {
+					if i != k {
+						if code>>bit&1 > 0 {
+							refs[i] = append(refs[i], k)
+						}
+						bit++
+					}
+				}
+			}
+			l := linked(refs...)
+			if impl.StoreOk(storeOf(l...)) && !yield(code, l) {
+				return
+			}
+		}
+	}
+}
+
 // Every way in which four objects can refer to each other, and each part of these that may be there before.
 func TestChangesOfAllSmallStores(t *testing.T) {
 	count := 0
-	for code := range 1 << 12 {
-		refs := make([][]int, 4)
-		bit := 0
-		for i := range refs {
-			for k := range refs {
-				if i != k {
-					if code>>bit&1 > 0 {
-						refs[i] = append(refs[i], k)
-					}
-					bit++
-				}
-			}
-		}
-		l := linked(refs...)
-		if !impl.StoreOk(storeOf(l...)) {
-			continue
-		}
+	for code, l := range foursomes() {
 		count++
 		checkChanges(t, "all", impl.Store{}, storeOf(l...))
 		checkChanges(t, "all are gone", storeOf(l...), impl.Store{})

@@ -283,11 +283,14 @@ func validStore(s impl.Store) bool {
 	return true
 }
 
-func encodeObj(o impl.Obj) []byte {
-	b := slices.Concat(o.Name, []byte{byte(o.Kind)}, encode(o.Tree))
-	b = append(impl.PutNum(b, len(o.From)), o.From...)
-	b = append(impl.PutNum(b, len(o.Out)), o.Out...)
-	return append(impl.PutNum(b, len(o.Refs)), bytes.Join(o.Refs, nil)...)
+func encodeObj(o impl.Obj) []byte { return encodeObjNumbered(o, impl.PutNum) }
+
+// encodeObjNumbered is encodeObj, but puts numbers as put does.
+func encodeObjNumbered(o impl.Obj, put func(b []byte, n int) []byte) []byte {
+	b := slices.Concat(o.Name, []byte{byte(o.Kind)}, encodeNumbered(o.Tree, put))
+	b = append(put(b, len(o.From)), o.From...)
+	b = append(put(b, len(o.Out)), o.Out...)
+	return append(put(b, len(o.Refs)), bytes.Join(o.Refs, nil)...)
 }
 
 func encodeStore(s impl.Store) []byte {

@@ -217,13 +217,16 @@ func depthOf(t impl.Tree) int {
 }
 
 // encode takes any tree with as many names as kids: what it makes of one that is not valid is almost an encoding.
-func encode(t impl.Tree) []byte {
+func encode(t impl.Tree) []byte { return encodeNumbered(t, impl.PutNum) }
+
+// encodeNumbered is encode, but puts numbers as put does.
+func encodeNumbered(t impl.Tree, put func(b []byte, n int) []byte) []byte {
 	if t.Kind != impl.KdDir {
-		return append(impl.PutNum([]byte{byte(t.Kind)}, len(t.Data)), t.Data...)
+		return append(put([]byte{byte(t.Kind)}, len(t.Data)), t.Data...)
 	}
 	b := []byte{byte(t.Kind), byte(len(t.Kids))}
 	for i, kid := range t.Kids {
-		b = slices.Concat(impl.PutNum(b, len(t.Names[i])), t.Names[i], encode(kid))
+		b = slices.Concat(put(b, len(t.Names[i])), t.Names[i], encodeNumbered(kid, put))
 	}
 	return b
 }
