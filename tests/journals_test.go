@@ -460,7 +460,12 @@ func headOf(j impl.Journal) impl.Store {
 
 // committed returns what the document says of Commit for a valid journal and a valid store.
 func committed(j impl.Journal, s impl.Store) (impl.Journal, bool) {
-	regs, ok := changesOf(headOf(j), s)
+	return committedFrom(j, headOf(j), s)
+}
+
+// committedFrom is committed for a journal with that head.
+func committedFrom(j impl.Journal, head, s impl.Store) (impl.Journal, bool) {
+	regs, ok := changesOf(head, s)
 	if !ok || len(j.Regs)+len(regs) > 200 {
 		return j, false
 	}

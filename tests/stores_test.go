@@ -238,17 +238,18 @@ func closureOf(s impl.Store, names ...string) []string {
 			l = append(l, name)
 		}
 	}
-	// No path goes through more objects than there are.
-	for range s.Objs {
+	l = sorted(l)
+	for {
+		more := slices.Clone(l)
 		for _, name := range l {
 			o, _ := objOf(s, name)
-			for _, ref := range o.Refs {
-				l = append(l, string(ref))
-			}
+			more = append(more, strs(o.Refs)...)
 		}
-		l = sorted(l)
+		if more = sorted(more); len(more) == len(l) {
+			return more
+		}
+		l = more
 	}
-	return sorted(l)
 }
 
 func validStore(s impl.Store) bool {
